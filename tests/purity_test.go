@@ -1,0 +1,290 @@
+package tests
+
+import (
+	"math"
+	"reflect"
+	"testing"
+
+	"loop.example/g01138/impl"
+)
+
+// chapterFunctions are the functions that promise 11 is tested for: each is called with all mixtures of the
+// arguments of its types, by reflection.
+func chapterFunctions() map[string]any {
+	return map[string]any{
+		"IsPoset":      impl.IsPoset,
+		"CoversOf":     impl.CoversOf,
+		"FromCovers":   impl.FromCovers,
+		"IsIdeal":      impl.IsIdeal,
+		"IdealsOf":     impl.IdealsOf,
+		"CountIdeals":  impl.CountIdeals,
+		"IdealOf":      impl.IdealOf,
+		"TopOf":        impl.TopOf,
+		"BottomOf":     impl.BottomOf,
+		"IsAntichain":  impl.IsAntichain,
+		"AntichainsOf": impl.AntichainsOf,
+		"HeightsOf":    impl.HeightsOf,
+		"IsRanked":     impl.IsRanked,
+		"DualOf":       impl.DualOf,
+		"SumOf":        impl.SumOf,
+		"StackOf":      impl.StackOf,
+		"Rectangle":    impl.Rectangle,
+		"Staircase":    impl.Staircase,
+		"Fence":        impl.Fence,
+		"PosetText":    impl.PosetText,
+		"ParsePoset":   impl.ParsePoset,
+	}
+}
+
+// hidden stands behind the length of every slice that is given to the program.
+const hidden = 7777
+
+// withSpare returns the same numbers, with some more behind the length that the program must neither read nor change.
+func withSpare(list []int) []int {
+	if list == nil {
+		return nil
+	}
+	room := make([]int, 0, len(list)+3)
+	room = append(room, list...)
+	for range 3 {
+		room = append(room, hidden)
+	}
+	return room[:len(list)]
+}
+
+func argumentsOf(kind reflect.Type) []reflect.Value {
+	var list []any
+	switch kind {
+	case reflect.TypeFor[impl.Poset]():
+		for _, p := range append(badPosets(), argumentPosets()...) {
+			list = append(list, impl.Poset{Less: withSpare(p.Less)})
+		}
+	case reflect.TypeFor[int]():
+		for _, n := range []int{math.MinInt, -1 << 32, -2, -1, 0, 1, 2, 3, 4, 5, 7, 10, 11, 15, 16, 1023, 1024, 1 << 32, 1 << 62, math.MaxInt} {
+			list = append(list, n)
+		}
+	case reflect.TypeFor[[][]int]():
+		for _, rows := range argumentRows() {
+			list = append(list, rows)
+		}
+	case reflect.TypeFor[string]():
+		for _, text := range append(textsOfNoPoset(), "1:-", "4:0<1,0<2,1<3,2<3", "10:0<9") {
+			list = append(list, text)
+		}
+	}
+	var values []reflect.Value
+	for _, x := range list {
+		values = append(values, reflect.ValueOf(x))
+	}
+	return values
+}
+
+func argumentPosets() []impl.Poset {
+	list := append(everyPoset(3), largePosets()...)
+	return append(list, impl.Poset{Less: []int{0}}, impl.Poset{Less: []int{0, 1, 1, 7}})
+}
+
+func argumentRows() [][][]int {
+	long := make([][]int, 101)
+	for k := range long {
+		long[k] = []int{0, 1}
+	}
+	lists := [][][]int{
+		nil, {}, {nil}, {{}}, {{0}}, {{0, 1}}, {{0, 1}, {1, 2}}, {{0, 1, 2}}, {{1, 0}}, {{0, 0}}, {{0, 1}, nil},
+		{{-1, 0}}, {{0, math.MaxInt}}, {{math.MinInt, math.MaxInt}}, {{0, 9}, {3, 4}, {0, 9}}, {{0, 1}, {0, 2}, {1, 3}, {2, 3}},
+		long, long[:100],
+	}
+	for k, rows := range lists {
+		var spare [][]int
+		for _, row := range rows {
+			spare = append(spare, withSpare(row))
+		}
+		if spare != nil {
+			spare = append(spare, []int{hidden})[:len(rows)]
+		}
+		lists[k] = spare
+	}
+	return lists
+}
+
+// slicesIn returns all slices in a value, each with its whole capacity.
+func slicesIn(v reflect.Value) []reflect.Value {
+	switch v.Kind() {
+	case reflect.Struct:
+		var found []reflect.Value
+		for i := range v.NumField() {
+			found = append(found, slicesIn(v.Field(i))...)
+		}
+		return found
+	case reflect.Slice:
+		whole := v.Slice3(0, v.Cap(), v.Cap())
+		found := []reflect.Value{whole}
+		for i := range whole.Len() {
+			found = append(found, slicesIn(whole.Index(i))...)
+		}
+		return found
+	}
+	return nil
+}
+
+// memoryOf copies all numbers and the headers of all rows that stand in a value, and behind its lengths.
+func memoryOf(values []reflect.Value) []any {
+	var seen []any
+	for _, v := range values {
+		if v.Kind() != reflect.Struct && v.Kind() != reflect.Slice {
+			seen = append(seen, v.Interface())
+		}
+		for _, s := range slicesIn(v) {
+			for i := range s.Len() {
+				if x := s.Index(i); x.Kind() == reflect.Slice {
+					seen = append(seen, x.Pointer(), x.Len(), x.Cap())
+				} else {
+					seen = append(seen, x.Interface())
+				}
+			}
+		}
+	}
+	return seen
+}
+
+// scribble writes a number over all numbers in a value, and behind its lengths.
+func scribble(s reflect.Value, number int) {
+	for i := range s.Len() {
+		if x := s.Index(i); x.Kind() == reflect.Int {
+			x.SetInt(int64(number))
+		}
+	}
+}
+
+func holds(s reflect.Value, number int) bool {
+	for i := range s.Len() {
+		if x := s.Index(i); x.Kind() == reflect.Int && x.Int() != int64(number) {
+			return false
+		}
+	}
+	return true
+}
+
+// eachCall calls body with all mixtures of arguments of a function.
+func eachCall(f reflect.Value, body func(args []reflect.Value)) {
+	var pick func(args []reflect.Value)
+	pick = func(args []reflect.Value) {
+		if len(args) == f.Type().NumIn() {
+			body(args)
+			return
+		}
+		for _, v := range argumentsOf(f.Type().In(len(args))) {
+			pick(append(args[:len(args):len(args)], v))
+		}
+	}
+	pick(nil)
+}
+
+// callSafely calls f and tells a panic as a failed test.
+func callSafely(t *testing.T, name string, f reflect.Value, args []reflect.Value) (out []reflect.Value) {
+	defer func() {
+		if r := recover(); r != nil {
+			t.Errorf("%s%v panics: %v", name, args, r)
+		}
+	}()
+	return f.Call(args)
+}
+
+func interfacesOf(values []reflect.Value) []any {
+	var list []any
+	for _, v := range values {
+		list = append(list, v.Interface())
+	}
+	return list
+}
+
+func TestArgumentsAndResults(t *testing.T) {
+	for name, function := range chapterFunctions() {
+		f := reflect.ValueOf(function)
+		calls, succeeded, failed := 0, 0, 0
+		eachCall(f, func(args []reflect.Value) {
+			calls++
+			before := memoryOf(args)
+			out := callSafely(t, name, f, args)
+			if out == nil {
+				return
+			}
+			if !reflect.DeepEqual(memoryOf(args), before) {
+				t.Fatalf("%s changes its arguments %v", name, before)
+			}
+			if out[len(out)-1].Bool() {
+				succeeded++
+			} else {
+				failed++
+				checkZero(t, name, args, out)
+			}
+			checkMemory(t, name, f, args, before, out)
+		})
+		if succeeded == 0 || failed == 0 {
+			t.Errorf("%s: %d of %d calls succeed", name, succeeded, calls)
+		}
+	}
+}
+
+func checkZero(t *testing.T, name string, args, out []reflect.Value) {
+	for _, x := range out {
+		if x.IsZero() || x.Kind() == reflect.Slice && x.Len() == 0 {
+			continue
+		}
+		t.Errorf("%s%v fails, but returns %v", name, args, interfacesOf(out))
+	}
+}
+
+// checkMemory overwrites a result: neither the arguments, nor another slice of the result, nor a later call may notice.
+func checkMemory(t *testing.T, name string, f reflect.Value, args []reflect.Value, before []any, out []reflect.Value) {
+	again := callSafely(t, name, f, args)
+	if !reflect.DeepEqual(interfacesOf(again), interfacesOf(out)) {
+		t.Errorf("%s%v returns %v, then %v", name, args, interfacesOf(out), interfacesOf(again))
+	}
+	var parts []reflect.Value
+	for _, x := range out {
+		parts = append(parts, slicesIn(x)...)
+	}
+	for k, s := range parts {
+		scribble(s, -1000-k)
+	}
+	for k, s := range parts {
+		if !holds(s, -1000-k) {
+			t.Errorf("%s%v returns slices that share memory", name, args)
+		}
+	}
+	if !reflect.DeepEqual(memoryOf(args), before) {
+		t.Fatalf("%s returns memory of its arguments %v", name, before)
+	}
+	if third := callSafely(t, name, f, args); !reflect.DeepEqual(interfacesOf(third), interfacesOf(again)) {
+		t.Errorf("%s%v returns %v when its last result was overwritten", name, args, interfacesOf(third))
+	}
+}
+
+// TestSpareCapacityIsNotRead gives the same lists twice, with other numbers behind their lengths.
+func TestSpareCapacityIsNotRead(t *testing.T) {
+	room := []int{0, 1, 1, 7, 15, 15, 15, 15, 15, 15, 15, 15}
+	for name, function := range chapterFunctions() {
+		f := reflect.ValueOf(function)
+		var cut, exact []reflect.Value
+		for i := range f.Type().NumIn() {
+			switch f.Type().In(i) {
+			case reflect.TypeFor[impl.Poset]():
+				cut = append(cut, reflect.ValueOf(impl.Poset{Less: room[:4]}))
+				exact = append(exact, reflect.ValueOf(impl.Poset{Less: []int{0, 1, 1, 7}}))
+			case reflect.TypeFor[[][]int]():
+				rows := [][]int{room[:2], {0, 2}, {1, 2}}
+				cut = append(cut, reflect.ValueOf(rows[:1]))
+				exact = append(exact, reflect.ValueOf([][]int{{0, 1}}))
+			case reflect.TypeFor[int]():
+				cut, exact = append(cut, reflect.ValueOf(3)), append(exact, reflect.ValueOf(3))
+			case reflect.TypeFor[string]():
+				cut, exact = append(cut, reflect.ValueOf("1:-")), append(exact, reflect.ValueOf("1:-"))
+			}
+		}
+		one, two := interfacesOf(f.Call(cut)), interfacesOf(f.Call(exact))
+		if !reflect.DeepEqual(one, two) || !two[len(two)-1].(bool) {
+			t.Errorf("%s reads behind the length: %v, %v", name, one, two)
+		}
+	}
+}
