@@ -33,6 +33,22 @@ func chapterFunctions() map[string]any {
 		"Fence":        impl.Fence,
 		"PosetText":    impl.PosetText,
 		"ParsePoset":   impl.ParsePoset,
+
+		"ToggleAt":       impl.ToggleAt,
+		"ToggleWord":     impl.ToggleWord,
+		"CanToggle":      impl.CanToggle,
+		"Rowmotion":      impl.Rowmotion,
+		"RowmotionBack":  impl.RowmotionBack,
+		"RowmotionTimes": impl.RowmotionTimes,
+		"RowByToggles":   impl.RowByToggles,
+		"IsOrder":        impl.IsOrder,
+		"CountOrders":    impl.CountOrders,
+		"DoCommute":      impl.DoCommute,
+		"ToggleCycles":   impl.ToggleCycles,
+		"OrderOfWord":    impl.OrderOfWord,
+		"AntichainRow":   impl.AntichainRow,
+		"PromoteIdeal":   impl.PromoteIdeal,
+		"PromoteTimes":   impl.PromoteTimes,
 	}
 }
 
@@ -63,6 +79,10 @@ func argumentsOf(kind reflect.Type) []reflect.Value {
 		for _, n := range []int{math.MinInt, -1 << 32, -2, -1, 0, 1, 2, 3, 4, 5, 7, 10, 11, 15, 16, 1023, 1024, 1 << 32, 1 << 62, math.MaxInt} {
 			list = append(list, n)
 		}
+	case reflect.TypeFor[[]int]():
+		for _, numbers := range argumentLists() {
+			list = append(list, withSpare(numbers))
+		}
 	case reflect.TypeFor[[][]int]():
 		for _, rows := range argumentRows() {
 			list = append(list, rows)
@@ -82,6 +102,14 @@ func argumentsOf(kind reflect.Type) []reflect.Value {
 func argumentPosets() []impl.Poset {
 	list := append(everyPoset(3), largePosets()...)
 	return append(list, impl.Poset{Less: []int{0}}, impl.Poset{Less: []int{0, 1, 1, 7}})
+}
+
+// argumentLists are words and orders, and what is neither.
+func argumentLists() [][]int {
+	return [][]int{
+		nil, {}, {0}, {1}, {9}, {0, 0}, {1, 0}, {0, 1, 2}, {2, 1, 0}, {0, 2, 1, 3}, {3, 2, 1, 0}, {0, 1, 2, 3, 4, 5, 6, 7, 8, 9},
+		{-1}, {10}, {64}, {0, math.MaxInt}, {math.MinInt, 0}, {0, 1, 1 << 32}, make([]int, 100), make([]int, 101),
+	}
 }
 
 func argumentRows() [][][]int {
@@ -264,6 +292,7 @@ func checkMemory(t *testing.T, name string, f reflect.Value, args []reflect.Valu
 // TestSpareCapacityIsNotRead gives the same lists twice, with other numbers behind their lengths.
 func TestSpareCapacityIsNotRead(t *testing.T) {
 	room := []int{0, 1, 1, 7, 15, 15, 15, 15, 15, 15, 15, 15}
+	upward := []int{0, 1, 2, 3, 0, 1, 2, 3, 64}
 	for name, function := range chapterFunctions() {
 		f := reflect.ValueOf(function)
 		var cut, exact []reflect.Value
@@ -276,8 +305,14 @@ func TestSpareCapacityIsNotRead(t *testing.T) {
 				rows := [][]int{room[:2], {0, 2}, {1, 2}}
 				cut = append(cut, reflect.ValueOf(rows[:1]))
 				exact = append(exact, reflect.ValueOf([][]int{{0, 1}}))
+			case reflect.TypeFor[[]int]():
+				cut, exact = append(cut, reflect.ValueOf(upward[:4])), append(exact, reflect.ValueOf([]int{0, 1, 2, 3}))
 			case reflect.TypeFor[int]():
-				cut, exact = append(cut, reflect.ValueOf(3)), append(exact, reflect.ValueOf(3))
+				number := reflect.ValueOf(3)
+				if name == "AntichainRow" {
+					number = reflect.ValueOf(6)
+				}
+				cut, exact = append(cut, number), append(exact, number)
 			case reflect.TypeFor[string]():
 				cut, exact = append(cut, reflect.ValueOf("1:-")), append(exact, reflect.ValueOf("1:-"))
 			}
