@@ -49,6 +49,23 @@ func chapterFunctions() map[string]any {
 		"AntichainRow":   impl.AntichainRow,
 		"PromoteIdeal":   impl.PromoteIdeal,
 		"PromoteTimes":   impl.PromoteTimes,
+
+		"OrbitOf":         impl.OrbitOf,
+		"AllOrbits":       impl.AllOrbits,
+		"OrbitLengths":    impl.OrbitLengths,
+		"OrderOfRow":      impl.OrderOfRow,
+		"SizeOf":          impl.SizeOf,
+		"OrbitSum":        impl.OrbitSum,
+		"AntichainSum":    impl.AntichainSum,
+		"ElementSum":      impl.ElementSum,
+		"SizeIsEven":      impl.SizeIsEven,
+		"AntichainIsEven": impl.AntichainIsEven,
+		"MeanOfIdeals":    impl.MeanOfIdeals,
+		"FixedIdeals":     impl.FixedIdeals,
+		"PromotionOrbits": impl.PromotionOrbits,
+		"FileSums":        impl.FileSums,
+		"IdealWord":       impl.IdealWord,
+		"FromWord":        impl.FromWord,
 	}
 }
 
@@ -88,7 +105,7 @@ func argumentsOf(kind reflect.Type) []reflect.Value {
 			list = append(list, rows)
 		}
 	case reflect.TypeFor[string]():
-		for _, text := range append(textsOfNoPoset(), "1:-", "4:0<1,0<2,1<3,2<3", "10:0<9") {
+		for _, text := range append(textsOfNoPoset(), "1:-", "4:0<1,0<2,1<3,2<3", "10:0<9", "UR", "RU", "URUR", "URRRR", "UUURRR", "UURRR", "urur") {
 			list = append(list, text)
 		}
 	}
@@ -314,7 +331,11 @@ func TestSpareCapacityIsNotRead(t *testing.T) {
 				}
 				cut, exact = append(cut, number), append(exact, number)
 			case reflect.TypeFor[string]():
-				cut, exact = append(cut, reflect.ValueOf("1:-")), append(exact, reflect.ValueOf("1:-"))
+				text := reflect.ValueOf("1:-")
+				if name == "FromWord" {
+					text = reflect.ValueOf("URURUR")
+				}
+				cut, exact = append(cut, text), append(exact, text)
 			}
 		}
 		one, two := interfacesOf(f.Call(cut)), interfacesOf(f.Call(exact))
