@@ -66,6 +66,22 @@ func chapterFunctions() map[string]any {
 		"FileSums":        impl.FileSums,
 		"IdealWord":       impl.IdealWord,
 		"FromWord":        impl.FromWord,
+
+		"IsLinear":         impl.IsLinear,
+		"CountLinear":      impl.CountLinear,
+		"LinearWith":       impl.LinearWith,
+		"RankLinear":       impl.RankLinear,
+		"AllLinear":        impl.AllLinear,
+		"ToggleLinear":     impl.ToggleLinear,
+		"PromoteLinear":    impl.PromoteLinear,
+		"EvacuateLinear":   impl.EvacuateLinear,
+		"CoevacuateLinear": impl.CoevacuateLinear,
+		"SlideOf":          impl.SlideOf,
+		"PromotionOrbit":   impl.PromotionOrbit,
+		"PromotionOrder":   impl.PromotionOrder,
+		"DualLinear":       impl.DualLinear,
+		"CountReturned":    impl.CountReturned,
+		"SelfEvacuated":    impl.SelfEvacuated,
 	}
 }
 
@@ -326,8 +342,11 @@ func TestSpareCapacityIsNotRead(t *testing.T) {
 				cut, exact = append(cut, reflect.ValueOf(upward[:4])), append(exact, reflect.ValueOf([]int{0, 1, 2, 3}))
 			case reflect.TypeFor[int]():
 				number := reflect.ValueOf(3)
-				if name == "AntichainRow" {
+				switch name {
+				case "AntichainRow":
 					number = reflect.ValueOf(6)
+				case "LinearWith", "ToggleLinear":
+					number = reflect.ValueOf(1)
 				}
 				cut, exact = append(cut, number), append(exact, number)
 			case reflect.TypeFor[string]():
