@@ -82,6 +82,22 @@ func chapterFunctions() map[string]any {
 		"DualLinear":       impl.DualLinear,
 		"CountReturned":    impl.CountReturned,
 		"SelfEvacuated":    impl.SelfEvacuated,
+
+		"IsTableau":       impl.IsTableau,
+		"TableauOf":       impl.TableauOf,
+		"LinearOf":        impl.LinearOf,
+		"HookOf":          impl.HookOf,
+		"CountTableaux":   impl.CountTableaux,
+		"CountStairs":     impl.CountStairs,
+		"PromoteTableau":  impl.PromoteTableau,
+		"EvacuateTableau": impl.EvacuateTableau,
+		"TurnTableau":     impl.TurnTableau,
+		"DescentsOf":      impl.DescentsOf,
+		"MajorOf":         impl.MajorOf,
+		"MajorTable":      impl.MajorTable,
+		"LatticeWord":     impl.LatticeWord,
+		"FromLattice":     impl.FromLattice,
+		"StairOf":         impl.StairOf,
 	}
 }
 
@@ -137,14 +153,16 @@ func argumentPosets() []impl.Poset {
 	return append(list, impl.Poset{Less: []int{0}}, impl.Poset{Less: []int{0, 1, 1, 7}})
 }
 
-// argumentLists are words and orders, and what is neither.
+// argumentLists are words, orders and lattice words, and what is none of them.
 func argumentLists() [][]int {
 	return [][]int{
 		nil, {}, {0}, {1}, {9}, {0, 0}, {1, 0}, {0, 1, 2}, {2, 1, 0}, {0, 2, 1, 3}, {3, 2, 1, 0}, {0, 1, 2, 3, 4, 5, 6, 7, 8, 9},
 		{-1}, {10}, {64}, {0, math.MaxInt}, {math.MinInt, 0}, {0, 1, 1 << 32}, make([]int, 100), make([]int, 101),
+		{0, 1, 0, 1}, {0, 1, 0, 2, 1, 2}, {0, 0, 1, 2, 0, 1, 2, 1, 2}, {0, 2, 4, 1, 3, 5}, {0, 5, 1, 2, 6, 7, 3, 8, 4, 9}, {0, 3, 1, 6, 4, 2, 7, 5, 8},
 	}
 }
 
+// argumentRows are relations and tableaux, and what is neither.
 func argumentRows() [][][]int {
 	long := make([][]int, 101)
 	for k := range long {
@@ -154,6 +172,8 @@ func argumentRows() [][][]int {
 		nil, {}, {nil}, {{}}, {{0}}, {{0, 1}}, {{0, 1}, {1, 2}}, {{0, 1, 2}}, {{1, 0}}, {{0, 0}}, {{0, 1}, nil},
 		{{-1, 0}}, {{0, math.MaxInt}}, {{math.MinInt, math.MaxInt}}, {{0, 9}, {3, 4}, {0, 9}}, {{0, 1}, {0, 2}, {1, 3}, {2, 3}},
 		long, long[:100],
+		{{0, 1}, {2, 3}}, {{0, 2}, {1, 3}}, {{0}, {1}, {2}}, {{0, 2, 4}, {1, 3, 5}}, {{0, 1, 4}, {2, 5, 7}, {3, 6, 8}}, {{0, 2, 3, 6, 8}, {1, 4, 5, 7, 9}},
+		{{0}, {}}, {{0, 2, 1}}, {{0, 3}, {1, 2}}, {{1}, {0}}, {{0, 1}, {2}}, {{0, 1}, {2, 4}}, {{0, 1, 2, 3, 4, 5, 6, 7, 8, 9, 10}},
 	}
 	for k, rows := range lists {
 		var spare [][]int
@@ -341,13 +361,7 @@ func TestSpareCapacityIsNotRead(t *testing.T) {
 			case reflect.TypeFor[[]int]():
 				cut, exact = append(cut, reflect.ValueOf(upward[:4])), append(exact, reflect.ValueOf([]int{0, 1, 2, 3}))
 			case reflect.TypeFor[int]():
-				number := reflect.ValueOf(3)
-				switch name {
-				case "AntichainRow":
-					number = reflect.ValueOf(6)
-				case "LinearWith", "ToggleLinear":
-					number = reflect.ValueOf(1)
-				}
+				number := reflect.ValueOf(numberFor(name, i))
 				cut, exact = append(cut, number), append(exact, number)
 			case reflect.TypeFor[string]():
 				text := reflect.ValueOf("1:-")
@@ -362,4 +376,20 @@ func TestSpareCapacityIsNotRead(t *testing.T) {
 			t.Errorf("%s reads behind the length: %v, %v", name, one, two)
 		}
 	}
+}
+
+// numberFor returns a number with which a function succeeds at the place i of its arguments.
+func numberFor(name string, i int) int {
+	switch name {
+	case "AntichainRow":
+		return 6
+	case "LinearWith", "ToggleLinear":
+		return 1
+	case "TableauOf":
+		return 2
+	case "HookOf":
+		// The sides come first.
+		return 3 - i/2
+	}
+	return 3
 }
