@@ -98,6 +98,21 @@ func chapterFunctions() map[string]any {
 		"LatticeWord":     impl.LatticeWord,
 		"FromLattice":     impl.FromLattice,
 		"StairOf":         impl.StairOf,
+
+		"AreLabels":         impl.AreLabels,
+		"AreStrict":         impl.AreStrict,
+		"CountLabels":       impl.CountLabels,
+		"CountStrict":       impl.CountStrict,
+		"StepCounts":        impl.StepCounts,
+		"LabelPolynomialAt": impl.LabelPolynomialAt,
+		"LabelsWith":        impl.LabelsWith,
+		"RankLabels":        impl.RankLabels,
+		"LabelsBySum":       impl.LabelsBySum,
+		"BoxCount":          impl.BoxCount,
+		"BoxBySum":          impl.BoxBySum,
+		"IdealsOfLabels":    impl.IdealsOfLabels,
+		"LabelsOfIdeals":    impl.LabelsOfIdeals,
+		"ComplementLabels":  impl.ComplementLabels,
 	}
 }
 
@@ -125,7 +140,7 @@ func argumentsOf(kind reflect.Type) []reflect.Value {
 			list = append(list, impl.Poset{Less: withSpare(p.Less)})
 		}
 	case reflect.TypeFor[int]():
-		for _, n := range []int{math.MinInt, -1 << 32, -2, -1, 0, 1, 2, 3, 4, 5, 7, 10, 11, 15, 16, 1023, 1024, 1 << 32, 1 << 62, math.MaxInt} {
+		for _, n := range []int{math.MinInt, -1 << 32, -14, -13, -2, -1, 0, 1, 2, 3, 4, 5, 7, 10, 11, 12, 13, 15, 16, 1023, 1024, 1 << 32, 1 << 62, math.MaxInt} {
 			list = append(list, n)
 		}
 	case reflect.TypeFor[[]int]():
@@ -153,12 +168,13 @@ func argumentPosets() []impl.Poset {
 	return append(list, impl.Poset{Less: []int{0}}, impl.Poset{Less: []int{0, 1, 1, 7}})
 }
 
-// argumentLists are words, orders and lattice words, and what is none of them.
+// argumentLists are words, orders, lattice words, labels and chains of ideals, and what is none of them.
 func argumentLists() [][]int {
 	return [][]int{
 		nil, {}, {0}, {1}, {9}, {0, 0}, {1, 0}, {0, 1, 2}, {2, 1, 0}, {0, 2, 1, 3}, {3, 2, 1, 0}, {0, 1, 2, 3, 4, 5, 6, 7, 8, 9},
 		{-1}, {10}, {64}, {0, math.MaxInt}, {math.MinInt, 0}, {0, 1, 1 << 32}, make([]int, 100), make([]int, 101),
 		{0, 1, 0, 1}, {0, 1, 0, 2, 1, 2}, {0, 0, 1, 2, 0, 1, 2, 1, 2}, {0, 2, 4, 1, 3, 5}, {0, 5, 1, 2, 6, 7, 3, 8, 4, 9}, {0, 3, 1, 6, 4, 2, 7, 5, 8},
+		{12}, {13}, {0, 0, 1}, {0, 5, 12}, {0, 1, 1, 7}, {1, 3, 1, 12}, {1, 3, 7, 15}, {0, 1, 3, 7, 15, 15}, {1, 0, 2, 0, 3, 3, 3, 4, 3, 12}, make([]int, 10), make([]int, 12), make([]int, 13),
 	}
 }
 
@@ -345,7 +361,6 @@ func checkMemory(t *testing.T, name string, f reflect.Value, args []reflect.Valu
 // TestSpareCapacityIsNotRead gives the same lists twice, with other numbers behind their lengths.
 func TestSpareCapacityIsNotRead(t *testing.T) {
 	room := []int{0, 1, 1, 7, 15, 15, 15, 15, 15, 15, 15, 15}
-	upward := []int{0, 1, 2, 3, 0, 1, 2, 3, 64}
 	for name, function := range chapterFunctions() {
 		f := reflect.ValueOf(function)
 		var cut, exact []reflect.Value
@@ -359,7 +374,8 @@ func TestSpareCapacityIsNotRead(t *testing.T) {
 				cut = append(cut, reflect.ValueOf(rows[:1]))
 				exact = append(exact, reflect.ValueOf([][]int{{0, 1}}))
 			case reflect.TypeFor[[]int]():
-				cut, exact = append(cut, reflect.ValueOf(upward[:4])), append(exact, reflect.ValueOf([]int{0, 1, 2, 3}))
+				list := listFor(name)
+				cut, exact = append(cut, reflect.ValueOf(append(list, 0, 1, 2, 3, 64)[:len(list)])), append(exact, reflect.ValueOf(list))
 			case reflect.TypeFor[int]():
 				number := reflect.ValueOf(numberFor(name, i))
 				cut, exact = append(cut, number), append(exact, number)
@@ -376,6 +392,14 @@ func TestSpareCapacityIsNotRead(t *testing.T) {
 			t.Errorf("%s reads behind the length: %v, %v", name, one, two)
 		}
 	}
+}
+
+// listFor returns a list with which a function succeeds.
+func listFor(name string) []int {
+	if name == "LabelsOfIdeals" {
+		return []int{0, 1, 5, 15}
+	}
+	return []int{0, 1, 2, 3}
 }
 
 // numberFor returns a number with which a function succeeds at the place i of its arguments.
