@@ -113,6 +113,18 @@ func chapterFunctions() map[string]any {
 		"IdealsOfLabels":    impl.IdealsOfLabels,
 		"LabelsOfIdeals":    impl.LabelsOfIdeals,
 		"ComplementLabels":  impl.ComplementLabels,
+
+		"GaussOf":              impl.GaussOf,
+		"HookPolynomial":       impl.HookPolynomial,
+		"RemaindersOf":         impl.RemaindersOf,
+		"RootSum":              impl.RootSum,
+		"ValueByRemainders":    impl.ValueByRemainders,
+		"RowFixed":             impl.RowFixed,
+		"PromotionFixed":       impl.PromotionFixed,
+		"RowStabilizers":       impl.RowStabilizers,
+		"PromotionStabilizers": impl.PromotionStabilizers,
+		"OrbitsByRests":        impl.OrbitsByRests,
+		"IsSieved":             impl.IsSieved,
 	}
 }
 
@@ -140,7 +152,7 @@ func argumentsOf(kind reflect.Type) []reflect.Value {
 			list = append(list, impl.Poset{Less: withSpare(p.Less)})
 		}
 	case reflect.TypeFor[int]():
-		for _, n := range []int{math.MinInt, -1 << 32, -14, -13, -2, -1, 0, 1, 2, 3, 4, 5, 7, 10, 11, 12, 13, 15, 16, 1023, 1024, 1 << 32, 1 << 62, math.MaxInt} {
+		for _, n := range []int{math.MinInt, -1 << 32, -14, -13, -2, -1, 0, 1, 2, 3, 4, 5, 7, 10, 11, 12, 13, 15, 16, 60, 61, 1023, 1024, 1 << 32, 1 << 62, math.MaxInt} {
 			list = append(list, n)
 		}
 	case reflect.TypeFor[[]int]():
@@ -168,13 +180,14 @@ func argumentPosets() []impl.Poset {
 	return append(list, impl.Poset{Less: []int{0}}, impl.Poset{Less: []int{0, 1, 1, 7}})
 }
 
-// argumentLists are words, orders, lattice words, labels and chains of ideals, and what is none of them.
+// argumentLists are words, orders, lattice words, labels, chains of ideals, coefficients, remainders and stabilizers, and what is none of them.
 func argumentLists() [][]int {
 	return [][]int{
 		nil, {}, {0}, {1}, {9}, {0, 0}, {1, 0}, {0, 1, 2}, {2, 1, 0}, {0, 2, 1, 3}, {3, 2, 1, 0}, {0, 1, 2, 3, 4, 5, 6, 7, 8, 9},
 		{-1}, {10}, {64}, {0, math.MaxInt}, {math.MinInt, 0}, {0, 1, 1 << 32}, make([]int, 100), make([]int, 101),
 		{0, 1, 0, 1}, {0, 1, 0, 2, 1, 2}, {0, 0, 1, 2, 0, 1, 2, 1, 2}, {0, 2, 4, 1, 3, 5}, {0, 5, 1, 2, 6, 7, 3, 8, 4, 9}, {0, 3, 1, 6, 4, 2, 7, 5, 8},
 		{12}, {13}, {0, 0, 1}, {0, 5, 12}, {0, 1, 1, 7}, {1, 3, 1, 12}, {1, 3, 7, 15}, {0, 1, 3, 7, 15, 15}, {1, 0, 2, 0, 3, 3, 3, 4, 3, 12}, make([]int, 10), make([]int, 12), make([]int, 13),
+		{2, 1}, {2, 1, 2, 1}, {1, 2, 1}, {60}, {61, 1}, {1_000_000, 0, 5}, {1_000_001}, {100_000_000}, {100_000_001}, make([]int, 60), make([]int, 61),
 	}
 }
 
@@ -396,8 +409,14 @@ func TestSpareCapacityIsNotRead(t *testing.T) {
 
 // listFor returns a list with which a function succeeds.
 func listFor(name string) []int {
-	if name == "LabelsOfIdeals" {
+	switch name {
+	case "LabelsOfIdeals":
 		return []int{0, 1, 5, 15}
+	case "ValueByRemainders", "OrbitsByRests":
+		return []int{2, 1, 2, 1}
+	case "IsSieved":
+		// As remainders they sieve themselves.
+		return []int{2, 1}
 	}
 	return []int{0, 1, 2, 3}
 }
