@@ -125,6 +125,22 @@ func chapterFunctions() map[string]any {
 		"PromotionStabilizers": impl.PromotionStabilizers,
 		"OrbitsByRests":        impl.OrbitsByRests,
 		"IsSieved":             impl.IsSieved,
+
+		"IsArray":       impl.IsArray,
+		"ToggleNumber":  impl.ToggleNumber,
+		"ToggleNumbers": impl.ToggleNumbers,
+		"RowArray":      impl.RowArray,
+		"RowArrayBack":  impl.RowArrayBack,
+		"RowArrayTimes": impl.RowArrayTimes,
+		"ArrayOfIdeal":  impl.ArrayOfIdeal,
+		"IdealOfArray":  impl.IdealOfArray,
+		"LayersOf":      impl.LayersOf,
+		"FromLayers":    impl.FromLayers,
+		"AllArrays":     impl.AllArrays,
+		"CountArrays":   impl.CountArrays,
+		"ArrayOrbit":    impl.ArrayOrbit,
+		"MirrorArray":   impl.MirrorArray,
+		"RangeAt":       impl.RangeAt,
 	}
 }
 
@@ -152,7 +168,7 @@ func argumentsOf(kind reflect.Type) []reflect.Value {
 			list = append(list, impl.Poset{Less: withSpare(p.Less)})
 		}
 	case reflect.TypeFor[int]():
-		for _, n := range []int{math.MinInt, -1 << 32, -14, -13, -2, -1, 0, 1, 2, 3, 4, 5, 7, 10, 11, 12, 13, 15, 16, 60, 61, 1023, 1024, 1 << 32, 1 << 62, math.MaxInt} {
+		for _, n := range []int{math.MinInt, -1 << 32, -14, -13, -2, -1, 0, 1, 2, 3, 4, 5, 7, 10, 11, 12, 13, 15, 16, 20, 21, 60, 61, 1023, 1024, 1 << 32, 1 << 62, math.MaxInt} {
 			list = append(list, n)
 		}
 	case reflect.TypeFor[[]int]():
@@ -168,6 +184,36 @@ func argumentsOf(kind reflect.Type) []reflect.Value {
 			list = append(list, text)
 		}
 	}
+	return reflectedValues(list)
+}
+
+// argumentsFor returns the arguments at the place i of a function: fewer ones of a poset and three more, of which there would be millions of mixtures.
+func argumentsFor(f reflect.Type, i int) []reflect.Value {
+	if f.NumIn() < 4 || f.In(0) != reflect.TypeFor[impl.Poset]() {
+		return argumentsOf(f.In(i))
+	}
+	var list []any
+	switch f.In(i) {
+	case reflect.TypeFor[impl.Poset]():
+		for _, less := range [][]int{nil, {}, {-1}, {0, 1, 2}, make([]int, 11), {0}, {0, 1, 1, 7}, {0, 1, 1, 5, 15}, chainOf(10).Less} {
+			list = append(list, impl.Poset{Less: withSpare(less)})
+		}
+	case reflect.TypeFor[int]():
+		for _, n := range []int{math.MinInt, -1001, -1000, -1, 0, 1, 3, 4, 9, 10, 20, 21, 1000, 1001, 1 << 62, math.MaxInt} {
+			list = append(list, n)
+		}
+	case reflect.TypeFor[[]int]():
+		for _, numbers := range [][]int{
+			nil, {}, {0}, {20}, {21}, {-1}, {math.MaxInt}, {0, 1, 1, 3}, {1, 0, 2, 3}, {0, 20, 4, 20}, {0, 3, 2, 2, 4}, {math.MinInt, 0, 0, 0},
+			{0, 0, 1, 4, 4, 7, 9, 9, 20, 20}, make([]int, 10), make([]int, 100), make([]int, 101),
+		} {
+			list = append(list, withSpare(numbers))
+		}
+	}
+	return reflectedValues(list)
+}
+
+func reflectedValues(list []any) []reflect.Value {
 	var values []reflect.Value
 	for _, x := range list {
 		values = append(values, reflect.ValueOf(x))
@@ -180,7 +226,7 @@ func argumentPosets() []impl.Poset {
 	return append(list, impl.Poset{Less: []int{0}}, impl.Poset{Less: []int{0, 1, 1, 7}})
 }
 
-// argumentLists are words, orders, lattice words, labels, chains of ideals, coefficients, remainders and stabilizers, and what is none of them.
+// argumentLists are words, orders, lattice words, labels, chains of ideals, coefficients, remainders, stabilizers, arrays and layers, and what is none of them.
 func argumentLists() [][]int {
 	return [][]int{
 		nil, {}, {0}, {1}, {9}, {0, 0}, {1, 0}, {0, 1, 2}, {2, 1, 0}, {0, 2, 1, 3}, {3, 2, 1, 0}, {0, 1, 2, 3, 4, 5, 6, 7, 8, 9},
@@ -188,6 +234,7 @@ func argumentLists() [][]int {
 		{0, 1, 0, 1}, {0, 1, 0, 2, 1, 2}, {0, 0, 1, 2, 0, 1, 2, 1, 2}, {0, 2, 4, 1, 3, 5}, {0, 5, 1, 2, 6, 7, 3, 8, 4, 9}, {0, 3, 1, 6, 4, 2, 7, 5, 8},
 		{12}, {13}, {0, 0, 1}, {0, 5, 12}, {0, 1, 1, 7}, {1, 3, 1, 12}, {1, 3, 7, 15}, {0, 1, 3, 7, 15, 15}, {1, 0, 2, 0, 3, 3, 3, 4, 3, 12}, make([]int, 10), make([]int, 12), make([]int, 13),
 		{2, 1}, {2, 1, 2, 1}, {1, 2, 1}, {60}, {61, 1}, {1_000_000, 0, 5}, {1_000_001}, {100_000_000}, {100_000_001}, make([]int, 60), make([]int, 61),
+		{20}, {21}, {0, 20, 4}, {2, 7, 7, 20}, {0, 3, 2, 2, 20}, {0, 1, 1, 2, 4, 8, 8, 9, 20, 20}, make([]int, 20), make([]int, 21),
 	}
 }
 
@@ -283,7 +330,7 @@ func eachCall(f reflect.Value, body func(args []reflect.Value)) {
 			body(args)
 			return
 		}
-		for _, v := range argumentsOf(f.Type().In(len(args))) {
+		for _, v := range argumentsFor(f.Type(), len(args)) {
 			pick(append(args[:len(args):len(args)], v))
 		}
 	}
@@ -410,7 +457,7 @@ func TestSpareCapacityIsNotRead(t *testing.T) {
 // listFor returns a list with which a function succeeds.
 func listFor(name string) []int {
 	switch name {
-	case "LabelsOfIdeals":
+	case "LabelsOfIdeals", "FromLayers":
 		return []int{0, 1, 5, 15}
 	case "ValueByRemainders", "OrbitsByRests":
 		return []int{2, 1, 2, 1}
