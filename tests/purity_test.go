@@ -141,6 +141,21 @@ func chapterFunctions() map[string]any {
 		"ArrayOrbit":    impl.ArrayOrbit,
 		"MirrorArray":   impl.MirrorArray,
 		"RangeAt":       impl.RangeAt,
+
+		"RanksOf":             impl.RanksOf,
+		"ToggleRank":          impl.ToggleRank,
+		"ToggleRanks":         impl.ToggleRanks,
+		"RowByRanks":          impl.RowByRanks,
+		"Rowvacuation":        impl.Rowvacuation,
+		"DualRowvacuation":    impl.DualRowvacuation,
+		"RowvacuationWord":    impl.RowvacuationWord,
+		"FixedByRowvacuation": impl.FixedByRowvacuation,
+		"GyrateIdeal":         impl.GyrateIdeal,
+		"GyrateBack":          impl.GyrateBack,
+		"GyrationLengths":     impl.GyrationLengths,
+		"DualIdeal":           impl.DualIdeal,
+		"RowOnDual":           impl.RowOnDual,
+		"SortedLengths":       impl.SortedLengths,
 	}
 }
 
@@ -226,7 +241,7 @@ func argumentPosets() []impl.Poset {
 	return append(list, impl.Poset{Less: []int{0}}, impl.Poset{Less: []int{0, 1, 1, 7}})
 }
 
-// argumentLists are words, orders, lattice words, labels, chains of ideals, coefficients, remainders, stabilizers, arrays and layers, and what is none of them.
+// argumentLists are words of elements and of ranks, orders, lattice words, labels, chains of ideals, coefficients, remainders, stabilizers, arrays and layers, and what is none of them.
 func argumentLists() [][]int {
 	return [][]int{
 		nil, {}, {0}, {1}, {9}, {0, 0}, {1, 0}, {0, 1, 2}, {2, 1, 0}, {0, 2, 1, 3}, {3, 2, 1, 0}, {0, 1, 2, 3, 4, 5, 6, 7, 8, 9},
@@ -235,6 +250,7 @@ func argumentLists() [][]int {
 		{12}, {13}, {0, 0, 1}, {0, 5, 12}, {0, 1, 1, 7}, {1, 3, 1, 12}, {1, 3, 7, 15}, {0, 1, 3, 7, 15, 15}, {1, 0, 2, 0, 3, 3, 3, 4, 3, 12}, make([]int, 10), make([]int, 12), make([]int, 13),
 		{2, 1}, {2, 1, 2, 1}, {1, 2, 1}, {60}, {61, 1}, {1_000_000, 0, 5}, {1_000_001}, {100_000_000}, {100_000_001}, make([]int, 60), make([]int, 61),
 		{20}, {21}, {0, 20, 4}, {2, 7, 7, 20}, {0, 3, 2, 2, 20}, {0, 1, 1, 2, 4, 8, 8, 9, 20, 20}, make([]int, 20), make([]int, 21),
+		{2, 1, 0, 2, 1, 2}, {1, 0, 1}, {8, 0}, {0, 9, 3, 1}, make([]int, 40), make([]int, 41),
 	}
 }
 
@@ -464,6 +480,8 @@ func listFor(name string) []int {
 	case "IsSieved":
 		// As remainders they sieve themselves.
 		return []int{2, 1}
+	case "ToggleRanks":
+		return []int{2, 0, 1}
 	}
 	return []int{0, 1, 2, 3}
 }
@@ -473,7 +491,7 @@ func numberFor(name string, i int) int {
 	switch name {
 	case "AntichainRow":
 		return 6
-	case "LinearWith", "ToggleLinear":
+	case "LinearWith", "ToggleLinear", "ToggleRank":
 		return 1
 	case "TableauOf":
 		return 2
