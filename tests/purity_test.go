@@ -3,6 +3,8 @@ package tests
 import (
 	"math"
 	"reflect"
+	"strconv"
+	"strings"
 	"testing"
 
 	"loop.example/g01138/impl"
@@ -156,6 +158,13 @@ func chapterFunctions() map[string]any {
 		"DualIdeal":           impl.DualIdeal,
 		"RowOnDual":           impl.RowOnDual,
 		"SortedLengths":       impl.SortedLengths,
+
+		// FirstDesk has neither arguments nor a result that tells whether there are others; console_test.go tests it.
+		"IsDesk":      impl.IsDesk,
+		"DeskLine":    impl.DeskLine,
+		"RunScript":   impl.RunScript,
+		"DeskAfter":   impl.DeskAfter,
+		"FailedLines": impl.FailedLines,
 	}
 }
 
@@ -195,8 +204,14 @@ func argumentsOf(kind reflect.Type) []reflect.Value {
 			list = append(list, rows)
 		}
 	case reflect.TypeFor[string]():
-		for _, text := range append(textsOfNoPoset(), "1:-", "4:0<1,0<2,1<3,2<3", "10:0<9", "UR", "RU", "URUR", "URRRR", "UUURRR", "UURRR", "urur") {
+		for _, text := range append(textsOfNoPoset(), argumentTexts()...) {
 			list = append(list, text)
+		}
+	case reflect.TypeFor[impl.Desk]():
+		for _, p := range append(badPosets(), argumentPosets()...) {
+			for _, s := range []int{math.MinInt, -1, 0, 1, 2, 3, 7, 15, 31, 1023, 1024, math.MaxInt} {
+				list = append(list, impl.Desk{Poset: impl.Poset{Less: withSpare(p.Less)}, Ideal: s})
+			}
 		}
 	}
 	return reflectedValues(list)
@@ -239,6 +254,23 @@ func reflectedValues(list []any) []reflect.Value {
 func argumentPosets() []impl.Poset {
 	list := append(everyPoset(3), largePosets()...)
 	return append(list, impl.Poset{Less: []int{0}}, impl.Poset{Less: []int{0, 1, 1, 7}})
+}
+
+// argumentTexts are PosetTexts, border words, lines and scripts, and texts of any bytes.
+func argumentTexts() []string {
+	texts := []string{
+		"1:-", "4:0<1,0<2,1<3,2<3", "10:0<9", "UR", "RU", "URUR", "URRRR", "UUURRR", "UURRR", "urur",
+		"poset 2:0<1", "poset 3:0<1,0<2,1<2", "rectangle 2 5", "rectangle 4 4", "stairs 4", "fence 11", "dual", "take 3", "take 1000000", "toggle 0", "toggle 9", "row", "back", "times 1000", "times 1001",
+		"vacuate", "gyrate", "show", "ideal", "size", "orbit", "ideals", "orders", "lengths", "mean", "even", " ", "row ", "fly", "\r", "\x00",
+		"row\n", "row\nrow", "\n", "\n\n", "row\nback\nfly\ntake 2\norbit\nlengths\n", "poset 10:-\ndual\nideal\n", "fence 5\nstairs 9\neven\n\n",
+		strings.Repeat("row\n", 50), strings.Repeat("row\n", 51), strings.Repeat("x", 2999) + "\n", strings.Repeat("x", 3000), strings.Repeat("x", 3001), strings.Repeat("x", 3000) + "\n", strings.Repeat("row\n", 100000), strings.Repeat("\xff\x00 ", 100000),
+	}
+	for b := range 256 {
+		if b%16 == 10 || b > 250 {
+			texts = append(texts, strings.Repeat(string([]byte{byte(b)}), 40), "take "+string([]byte{byte(b)})+"\n")
+		}
+	}
+	return texts
 }
 
 // argumentLists are words of elements and of ranks, orders, lattice words, labels, chains of ideals, coefficients, remainders, stabilizers, arrays and layers, and what is none of them.
@@ -320,18 +352,22 @@ func memoryOf(values []reflect.Value) []any {
 	return seen
 }
 
-// scribble writes a number over all numbers in a value, and behind its lengths.
+// scribble writes a number over all numbers and texts in a value, and behind its lengths.
 func scribble(s reflect.Value, number int) {
 	for i := range s.Len() {
-		if x := s.Index(i); x.Kind() == reflect.Int {
+		switch x := s.Index(i); x.Kind() {
+		case reflect.Int:
 			x.SetInt(int64(number))
+		case reflect.String:
+			x.SetString(strconv.Itoa(number))
 		}
 	}
 }
 
 func holds(s reflect.Value, number int) bool {
 	for i := range s.Len() {
-		if x := s.Index(i); x.Kind() == reflect.Int && x.Int() != int64(number) {
+		x := s.Index(i)
+		if x.Kind() == reflect.Int && x.Int() != int64(number) || x.Kind() == reflect.String && x.String() != strconv.Itoa(number) {
 			return false
 		}
 	}
@@ -456,11 +492,11 @@ func TestSpareCapacityIsNotRead(t *testing.T) {
 				number := reflect.ValueOf(numberFor(name, i))
 				cut, exact = append(cut, number), append(exact, number)
 			case reflect.TypeFor[string]():
-				text := reflect.ValueOf("1:-")
-				if name == "FromWord" {
-					text = reflect.ValueOf("URURUR")
-				}
+				text := reflect.ValueOf(textFor(name))
 				cut, exact = append(cut, text), append(exact, text)
+			case reflect.TypeFor[impl.Desk]():
+				cut = append(cut, reflect.ValueOf(impl.Desk{Poset: impl.Poset{Less: room[:4]}, Ideal: 5}))
+				exact = append(exact, reflect.ValueOf(impl.Desk{Poset: impl.Poset{Less: []int{0, 1, 1, 7}}, Ideal: 5}))
 			}
 		}
 		one, two := interfacesOf(f.Call(cut)), interfacesOf(f.Call(exact))
@@ -484,6 +520,19 @@ func listFor(name string) []int {
 		return []int{2, 0, 1}
 	}
 	return []int{0, 1, 2, 3}
+}
+
+// textFor returns a text with which a function succeeds.
+func textFor(name string) string {
+	switch name {
+	case "FromWord":
+		return "URURUR"
+	case "DeskLine":
+		return "dual"
+	case "RunScript", "DeskAfter", "FailedLines":
+		return "dual\nfly\nrow\n"
+	}
+	return "1:-"
 }
 
 // numberFor returns a number with which a function succeeds at the place i of its arguments.
